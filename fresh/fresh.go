@@ -13,7 +13,7 @@ func State(s api.State) api.State {
 	return api.State{
 		Conf:  conf(s.Conf),
 		Nodes: slices.Clone(s.Nodes),
-		Apps:  each(s.Apps, app),
+		Apps:  each(s.Apps, App),
 		Conts: slices.Clone(s.Conts),
 		Slots: slices.Clone(s.Slots),
 		Plans: slices.Clone(s.Plans),
@@ -23,6 +23,14 @@ func State(s api.State) api.State {
 	}
 }
 
+// App returns an application equal to a, in memory of its own.
+func App(a api.App) api.App {
+	a.Queue, a.Asks = strings.Clone(a.Queue), slices.Clone(a.Asks)
+	a.Grants, a.Kills = slices.Clone(a.Grants), slices.Clone(a.Kills)
+	a.Told, a.Lost = slices.Clone(a.Told), slices.Clone(a.Lost)
+	return a
+}
+
 func conf(c api.Conf) api.Conf {
 	return api.Conf{Labels: each(c.Labels, strings.Clone), Queues: each(c.Queues, queue)}
 }
@@ -30,13 +38,6 @@ func conf(c api.Conf) api.Conf {
 func queue(q api.Queue) api.Queue {
 	q.Path, q.Caps = strings.Clone(q.Path), slices.Clone(q.Caps)
 	return q
-}
-
-func app(a api.App) api.App {
-	a.Queue, a.Asks = strings.Clone(a.Queue), slices.Clone(a.Asks)
-	a.Grants, a.Kills = slices.Clone(a.Grants), slices.Clone(a.Kills)
-	a.Told, a.Lost = slices.Clone(a.Told), slices.Clone(a.Lost)
-	return a
 }
 
 // each is for lists whose elements hold memory themselves.

@@ -70,11 +70,34 @@ func TestStateSharesNoMemory(t *testing.T) {
 	}
 }
 
+// The same of an application alone.
+func TestAppIsEqualAndSharesNoMemory(t *testing.T) {
+	a := rich().Apps[0]
+	for i, l := range lists(reflect.ValueOf(rich().Apps[0])) {
+		c, want := fresh.App(a), rich().Apps[0]
+		if !reflect.DeepEqual(c, want) {
+			t.Fatalf("the copy of %+v is %+v", want, c)
+		}
+		lists(reflect.ValueOf(c))[i].Clear()
+		lists(reflect.ValueOf(want))[i].Clear()
+		if !reflect.DeepEqual(a, rich().Apps[0]) {
+			t.Fatalf("list %d, of %s: the application has changed: %+v", i, l.Type(), a)
+		}
+		if !reflect.DeepEqual(c, want) {
+			t.Errorf("list %d, of %s: the copy is %+v; want %+v", i, l.Type(), c, want)
+		}
+	}
+	if c := fresh.App(api.App{Id: 4}); !reflect.DeepEqual(c, api.App{Id: 4}) {
+		t.Errorf("the copy of an application without lists is %+v", c)
+	}
+}
+
 func TestStateCopiesStrings(t *testing.T) {
 	s := rich()
 	s.Conf.Labels[1], s.Conf.Queues[1].Path, s.Apps[1].Queue = strconv.Itoa(1000), strconv.Itoa(2000), strconv.Itoa(3000)
 	c := fresh.State(s)
-	for _, x := range [][2]string{{s.Conf.Labels[1], c.Conf.Labels[1]}, {s.Conf.Queues[1].Path, c.Conf.Queues[1].Path}, {s.Apps[1].Queue, c.Apps[1].Queue}} {
+	one := fresh.App(s.Apps[1])
+	for _, x := range [][2]string{{s.Apps[1].Queue, one.Queue}, {s.Conf.Labels[1], c.Conf.Labels[1]}, {s.Conf.Queues[1].Path, c.Conf.Queues[1].Path}, {s.Apps[1].Queue, c.Apps[1].Queue}} {
 		if x[0] != x[1] || unsafe.StringData(x[0]) == unsafe.StringData(x[1]) {
 			t.Errorf("%s and its copy %s, or their memory", x[0], x[1])
 		}
